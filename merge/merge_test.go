@@ -103,7 +103,7 @@ func pairs(t api.Tree) (l []any) {
 	return l
 }
 
-// P16.1, P16.3: all small ones into each other, against the tests' own; a second time nothing more is turned.
+// P16.1, P16.3: small ones, each into each other, against the tests' own; a second time nothing more is turned.
 func TestMergeSmall(t *testing.T) {
 	l := small(2)
 	if len(l) < 200 {

@@ -145,7 +145,7 @@ func wild(r *rand.Rand, depth int) api.Tree {
 	return t
 }
 
-// small are all values of two names and few others, so many objects deep.
+// small are values of two names and few others, so many objects deep: at a depth of 1 all there are.
 func small(depth int) []api.Tree {
 	l := []api.Tree{null(), number(1), list(inA(null())), text("a")}
 	if depth == 0 {
@@ -156,7 +156,7 @@ func small(depth int) []api.Tree {
 	for i, a := range within {
 		l = append(l, object("a", a), object("b", a))
 		for k, b := range within {
-			if depth == 1 || i < 8 || k < 8 { // not all of the deeper ones, which are too many
+			if depth == 1 || i < 8 || k < 8 { // the deeper ones are too many
 				l = append(l, object("a", a, "b", b))
 			}
 		}
